@@ -1,0 +1,313 @@
+package oops_test
+
+import (
+	"errors"
+	"slices"
+	"strings"
+	"testing"
+
+	"taproot/api"
+	"taproot/oops"
+)
+
+// other is an error of another package that wraps one.
+type other struct{ err error }
+
+func (o other) Error() string { return "other" }
+func (o other) Unwrap() error { return o.err }
+
+// posing is an error that is not of the types that are looked for, but says
+// that it can be taken for one of them.
+type posing struct{}
+
+func (posing) Error() string { return "posing" }
+func (posing) As(target any) bool {
+	switch target := target.(type) {
+	case *api.Errno:
+		*target = api.ErrDown
+	case **oops.Place:
+		*target = &oops.Place{At: 12}
+	case **oops.Which:
+		*target = &oops.Which{Hash: api.Hash{12}}
+	default:
+		return false
+	}
+	return true
+}
+
+// failing is an error whose methods panic.
+type failing struct{}
+
+func (failing) Error() string { panic("Error") }
+func (failing) Unwrap() error { panic("Unwrap") }
+
+// endless is an error without an end.
+type endless struct{}
+
+func (endless) Error() string { return "endless" }
+func (endless) Unwrap() error { return endless{} }
+
+// nested returns e in n layers of Steps.
+func nested(n int, e error) error {
+	for range n {
+		e = oops.Wrap("layer", e)
+	}
+	return e
+}
+
+// rings returns errors of the types of this package that contain themselves.
+func rings() []error {
+	s, p, w := &oops.Step{Name: "ring"}, &oops.Place{At: 4}, &oops.Which{}
+	s.Err, p.Err, w.Err = s, other{p}, errors.Join(w, w)
+	r, q := &oops.Step{Name: "r"}, &oops.Place{At: 5}
+	r.Err, q.Err = q, errors.Join(api.ErrSum, r)
+	return []error{s, p, w, r, q, oops.Wrap("onto a ring", s)}
+}
+
+// TestExample: the example of chapter 3.
+func TestExample(t *testing.T) {
+	if got := oops.Kind(oops.Wrap("a", oops.At(3, api.ErrParse))); got != api.ErrParse {
+		t.Errorf("got %d", got)
+	}
+}
+
+// TestWrapsOfNil: 3.1, no error is wrapped in none.
+func TestWrapsOfNil(t *testing.T) {
+	if e := oops.Wrap("a", nil); e != nil {
+		t.Errorf("Wrap: %#v", e)
+	}
+	if e := oops.At(3, nil); e != nil {
+		t.Errorf("At: %#v", e)
+	}
+	if e := oops.Of(api.Hash{1}, nil); e != nil {
+		t.Errorf("Of: %#v", e)
+	}
+}
+
+// TestWraps: 3.1, each wrapper is of its type, with what it was given.
+func TestWraps(t *testing.T) {
+	inner := errors.New("inner")
+	for _, e := range []error{inner, api.OK, api.ErrFetch, oops.Wrap("a", inner), other{}, (*oops.Step)(nil)} {
+		for _, name := range []string{"", "a", "two words"} {
+			if s, ok := oops.Wrap(name, e).(*oops.Step); !ok || s.Name != name || s.Err != e || s.Unwrap() != e {
+				t.Errorf("Wrap(%q, %#v): %#v", name, e, s)
+			}
+		}
+		for _, at := range []int{-1, 0, 7} {
+			if p, ok := oops.At(at, e).(*oops.Place); !ok || p.At != at || p.Err != e || p.Unwrap() != e {
+				t.Errorf("At(%d, %#v): %#v", at, e, p)
+			}
+		}
+		for _, h := range []api.Hash{{}, {1}, {31: 255}} {
+			if w, ok := oops.Of(h, e).(*oops.Which); !ok || w.Hash != h || w.Err != e || w.Unwrap() != e {
+				t.Errorf("Of(%x, %#v): %#v", h, e, w)
+			}
+		}
+	}
+}
+
+// TestIsAndAs: 3.1, errors.Is and errors.As see through the wrappers.
+func TestIsAndAs(t *testing.T) {
+	inner := errors.New("inner")
+	e := oops.Wrap("a", oops.At(1, oops.Of(api.Hash{2}, inner)))
+	if !errors.Is(e, inner) || errors.Is(e, api.ErrArg) || errors.Is(e, errors.New("inner")) {
+		t.Error("errors.Is")
+	}
+	var s *oops.Step
+	var p *oops.Place
+	var w *oops.Which
+	if !errors.As(e, &s) || s.Name != "a" || !errors.As(e, &p) || p.At != 1 || !errors.As(e, &w) || w.Hash != (api.Hash{2}) {
+		t.Error("errors.As")
+	}
+	if errors.As(oops.At(1, inner), &s) || errors.As(oops.Wrap("a", inner), &w) || errors.As(oops.Of(api.Hash{}, inner), &p) {
+		t.Error("errors.As finds a wrapper of another type")
+	}
+}
+
+// TestKind: 3.1 and 3.2, OK for nil, the first Errno in the chain, ErrArg if
+// there is none.
+func TestKind(t *testing.T) {
+	kind := api.ErrSum
+	for _, c := range []struct {
+		name string
+		e    error
+		want api.Errno
+	}{
+		{"nil", nil, api.OK},
+		{"OK as an error", api.OK, api.OK},
+		{"OK in a Step", oops.Wrap("a", api.OK), api.OK},
+		{"another error", errors.New("x"), api.ErrArg},
+		{"another error in wrappers", oops.Wrap("a", oops.At(2, oops.Of(api.Hash{}, errors.New("x")))), api.ErrArg},
+		{"a Step of nil", &oops.Step{Name: "a"}, api.ErrArg},
+		{"a Place of nil", &oops.Place{At: 1}, api.ErrArg},
+		{"a Which of nil", &oops.Which{}, api.ErrArg},
+		{"another wrapper", other{oops.At(2, api.ErrFull)}, api.ErrFull},
+		{"another wrapper of nil", other{}, api.ErrArg},
+		{"a pointer to a kind", &kind, api.ErrArg},
+		{"a kind without a name", oops.At(2, api.Errno(-7)), api.Errno(-7)},
+		{"the first of two", errors.Join(oops.Wrap("a", api.ErrCycle), api.ErrArg), api.ErrCycle},
+		{"the second of two", errors.Join(oops.Wrap("a", errors.New("x")), oops.Of(api.Hash{}, api.ErrState)), api.ErrState},
+		{"none of two", errors.Join(errors.New("x"), errors.New("y")), api.ErrArg},
+		{"one that is taken for a kind", oops.Wrap("a", posing{}), api.ErrDown},
+		{"1000 layers", nested(1000, api.ErrMaster), api.ErrMaster},
+		{"65536 layers", nested(1<<16, api.ErrMaster), api.ErrMaster},
+	} {
+		if got := oops.Kind(c.e); got != c.want {
+			t.Errorf("%s: got %d, want %d", c.name, got, c.want)
+		}
+	}
+}
+
+// TestKindOfEach: 3.2, each wrapper leaves each kind as it is.
+func TestKindOfEach(t *testing.T) {
+	for kind := api.ErrArg; kind <= api.ErrMaster; kind++ {
+		for _, e := range []error{kind, oops.Wrap("a", kind), oops.At(1, kind), oops.Of(api.Hash{1}, kind), oops.At(0, oops.Wrap("", kind))} {
+			if got := oops.Kind(e); got != kind || !errors.Is(e, kind) {
+				t.Errorf("%#v: got %d, want %d", e, got, kind)
+			}
+		}
+	}
+}
+
+// TestSteps: 3.1, the Names of all Steps, the outermost one first.
+func TestSteps(t *testing.T) {
+	a, b := oops.Wrap("a", api.ErrArg), oops.Wrap("b", oops.Wrap("c", api.ErrArg))
+	for _, c := range []struct {
+		name string
+		e    error
+		want []string
+	}{
+		{"nil", nil, nil},
+		{"a kind", api.ErrArg, nil},
+		{"other wrappers", oops.At(1, oops.Of(api.Hash{}, other{api.ErrArg})), nil},
+		{"one", a, []string{"a"}},
+		{"two", b, []string{"b", "c"}},
+		{"an empty name", oops.Wrap("", a), []string{"", "a"}},
+		{"the same name twice", oops.Wrap("a", a), []string{"a", "a"}},
+		{"behind other wrappers", oops.At(1, oops.Wrap("d", other{oops.Of(api.Hash{}, b)})), []string{"d", "b", "c"}},
+		{"of nil", &oops.Step{Name: "e"}, []string{"e"}},
+		{"joined", oops.Wrap("d", errors.Join(a, errors.New("x"), b)), []string{"d", "a", "b", "c"}},
+	} {
+		if got := oops.Steps(c.e); !slices.Equal(got, c.want) {
+			t.Errorf("%s: got %q, want %q", c.name, got, c.want)
+		}
+	}
+	if got := oops.Steps(nested(1<<16, api.ErrArg)); len(got) != 1<<16 {
+		t.Errorf("65536 layers: got %d", len(got))
+	}
+}
+
+// TestStepsMemory: R2, each result of Steps is new memory.
+func TestStepsMemory(t *testing.T) {
+	e := oops.Wrap("a", oops.Wrap("b", api.ErrArg))
+	clear(oops.Steps(e))
+	if got := oops.Steps(e); !slices.Equal(got, []string{"a", "b"}) {
+		t.Errorf("got %q", got)
+	}
+}
+
+// TestWhere: 3.1, the first Place in the chain, or none.
+func TestWhere(t *testing.T) {
+	for _, c := range []struct {
+		name string
+		e    error
+		at   int
+		ok   bool
+	}{
+		{"nil", nil, 0, false},
+		{"a kind", api.ErrParse, 0, false},
+		{"other wrappers", oops.Wrap("a", oops.Of(api.Hash{1}, api.ErrArg)), 0, false},
+		{"at 0", oops.At(0, api.ErrParse), 0, true},
+		{"negative", oops.At(-4, api.ErrParse), -4, true},
+		{"the outer one", oops.At(9, oops.At(2, api.ErrParse)), 9, true},
+		{"behind other wrappers", oops.Wrap("a", other{oops.Of(api.Hash{1}, oops.At(3, api.ErrArg))}), 3, true},
+		{"of nil", &oops.Place{At: 5}, 5, true},
+		{"the second of two", errors.Join(api.ErrArg, oops.At(6, api.ErrArg)), 6, true},
+		{"one that is taken for a Place", posing{}, 12, true},
+		{"65536 layers", nested(1<<16-1, oops.At(8, api.ErrArg)), 8, true},
+	} {
+		if at, ok := oops.Where(c.e); at != c.at || ok != c.ok {
+			t.Errorf("%s: got %d, %t, want %d, %t", c.name, at, ok, c.at, c.ok)
+		}
+	}
+}
+
+// TestWhose: 3.1, the first Which in the chain, or none.
+func TestWhose(t *testing.T) {
+	for _, c := range []struct {
+		name string
+		e    error
+		h    api.Hash
+		ok   bool
+	}{
+		{"nil", nil, api.Hash{}, false},
+		{"a kind", api.ErrUnknown, api.Hash{}, false},
+		{"other wrappers", oops.Wrap("a", oops.At(1, api.ErrArg)), api.Hash{}, false},
+		{"the hash of zeros", oops.Of(api.Hash{}, api.ErrArg), api.Hash{}, true},
+		{"the last byte", oops.Of(api.Hash{31: 1}, api.ErrArg), api.Hash{31: 1}, true},
+		{"the outer one", oops.Of(api.Hash{9}, oops.Of(api.Hash{2}, api.ErrArg)), api.Hash{9}, true},
+		{"behind other wrappers", oops.Wrap("a", other{oops.At(1, oops.Of(api.Hash{3}, api.ErrArg))}), api.Hash{3}, true},
+		{"of nil", &oops.Which{Hash: api.Hash{5}}, api.Hash{5}, true},
+		{"the second of two", errors.Join(api.ErrArg, oops.Of(api.Hash{6}, api.ErrArg)), api.Hash{6}, true},
+		{"one that is taken for a Which", posing{}, api.Hash{12}, true},
+		{"65536 layers", nested(1<<16-1, oops.Of(api.Hash{8}, api.ErrArg)), api.Hash{8}, true},
+	} {
+		if h, ok := oops.Whose(c.e); h != c.h || ok != c.ok {
+			t.Errorf("%s: got %x, %t, want %x, %t", c.name, h, ok, c.h, c.ok)
+		}
+	}
+}
+
+// TestErrorEnds: 3.1, each text exists and is not empty, whatever is wrapped.
+func TestErrorEnds(t *testing.T) {
+	errs := rings()
+	for _, e := range []error{nil, api.OK, api.Errno(-1), api.ErrParse, api.Errno(99), errors.New(""), other{}, failing{}, endless{}, posing{}, (*oops.Step)(nil), (*oops.Which)(nil), nested(1<<16, api.ErrArg), nested(1<<18, api.ErrArg)} {
+		errs = append(errs, &oops.Step{Err: e}, &oops.Step{Name: "a", Err: e}, &oops.Place{Err: e}, &oops.Place{At: -1, Err: e}, &oops.Which{Err: e})
+	}
+	for _, e := range errs {
+		if e.Error() == "" {
+			t.Errorf("no text: %T", e)
+		}
+	}
+}
+
+// TestErrorTells: the texts tell the layer, and the kind of the error. 3.1
+// leaves them open.
+func TestErrorTells(t *testing.T) {
+	for _, c := range []struct {
+		e    error
+		want []string
+	}{
+		{oops.Wrap("adding", api.ErrCycle), []string{"adding", "cycle"}},
+		{oops.At(17, oops.Wrap("a", api.ErrParse)), []string{"17", "parse"}},
+		{oops.Of(api.Hash{0x0f, 0xa0}, api.ErrParent), []string{"0fa0", "parent"}},
+	} {
+		for _, want := range c.want {
+			if got := c.e.Error(); !strings.Contains(got, want) {
+				t.Errorf("%q does not contain %q", got, want)
+			}
+		}
+	}
+}
+
+// TestNoEnd: R1, every call ends and none panics for chains that have no end,
+// and for errors whose methods panic.
+func TestNoEnd(t *testing.T) {
+	var s *oops.Step
+	var p *oops.Place
+	var w *oops.Which
+	for _, e := range append(rings(), failing{}, endless{}, other{failing{}}, oops.Wrap("a", failing{}), errors.Join(endless{}, endless{}), s, p, w, (*other)(nil)) {
+		if got := oops.Kind(e); got != api.ErrArg {
+			t.Errorf("Kind of %T: %d", e, got)
+		}
+		if got := oops.Steps(e); len(got) != 0 {
+			t.Errorf("Steps of %T: %d", e, len(got))
+		}
+		if at, ok := oops.Where(e); at != 0 || ok {
+			t.Errorf("Where of %T: %d", e, at)
+		}
+		if h, ok := oops.Whose(e); h != (api.Hash{}) || ok {
+			t.Errorf("Whose of %T: %x", e, h)
+		}
+	}
+}
