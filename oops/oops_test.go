@@ -41,11 +41,61 @@ type failing struct{}
 func (failing) Error() string { panic("Error") }
 func (failing) Unwrap() error { panic("Unwrap") }
 
+// scared is an error whose method As panics.
+type scared struct{ err error }
+
+func (s scared) Error() string { return "scared" }
+func (s scared) Unwrap() error { return s.err }
+func (s scared) As(any) bool   { panic("As") }
+
+// hollow is an error that says that it can be taken for anything, and gives
+// nothing.
+type hollow struct{ err error }
+
+func (h hollow) Error() string { return "hollow" }
+func (h hollow) Unwrap() error { return h.err }
+func (h hollow) As(any) bool   { return true }
+
+// torn is an error that wraps several, of which some are nil, and cannot be
+// compared.
+type torn []error
+
+func (t torn) Error() string   { return "torn" }
+func (t torn) Unwrap() []error { return t }
+
+// refusing is an error that gives something, but says that it cannot be taken
+// for anything.
+type refusing struct{}
+
+func (refusing) Error() string { return "refusing" }
+func (refusing) As(target any) bool {
+	posing{}.As(target)
+	return false
+}
+
 // endless is an error without an end.
 type endless struct{}
 
 func (endless) Error() string { return "endless" }
 func (endless) Unwrap() error { return endless{} }
+
+// forking is an error without an end that wraps two of its kind.
+type forking struct{}
+
+func (forking) Error() string   { return "forking" }
+func (forking) Unwrap() []error { return []error{forking{}, forking{}} }
+
+// asked is an error that counts how often it is asked for the one it wraps.
+type asked struct {
+	times *int
+	err   error
+}
+
+func (a asked) Error() string { return "asked" }
+func (a asked) Unwrap() error {
+	*a.times++
+	return a.err
+}
 
 // nested returns e in n layers of Steps.
 func nested(n int, e error) error {
@@ -290,24 +340,156 @@ func TestErrorTells(t *testing.T) {
 	}
 }
 
-// TestNoEnd: R1, every call ends and none panics for chains that have no end,
-// and for errors whose methods panic.
-func TestNoEnd(t *testing.T) {
+// unfollowed returns errors that cannot be followed, or not to an end, and in
+// which there is nothing to be found.
+func unfollowed() []error {
 	var s *oops.Step
 	var p *oops.Place
 	var w *oops.Which
-	for _, e := range append(rings(), failing{}, endless{}, other{failing{}}, oops.Wrap("a", failing{}), errors.Join(endless{}, endless{}), s, p, w, (*other)(nil)) {
-		if got := oops.Kind(e); got != api.ErrArg {
-			t.Errorf("Kind of %T: %d", e, got)
+	return []error{failing{}, endless{}, forking{}, scared{}, hollow{}, refusing{}, torn{nil, torn{}, failing{}}, other{failing{}}, errors.Join(endless{}, endless{}), s, p, w, (*other)(nil), (*torn)(nil)}
+}
+
+// TestNothingFound: R1 and R3, no call panics, and each ends, for errors that
+// cannot be followed; they are none of those that are looked for.
+func TestNothingFound(t *testing.T) {
+	for _, e := range unfollowed() {
+		for _, e := range []error{e, other{e}, errors.Join(e, e)} {
+			if got := oops.Kind(e); got != api.ErrArg {
+				t.Errorf("Kind of %T: %d", e, got)
+			}
+			if got := oops.Steps(e); len(got) != 0 {
+				t.Errorf("Steps of %T: %q", e, got)
+			}
+			if at, ok := oops.Where(e); at != 0 || ok {
+				t.Errorf("Where of %T: %d, %t", e, at, ok)
+			}
+			if h, ok := oops.Whose(e); h != (api.Hash{}) || ok {
+				t.Errorf("Whose of %T: %x, %t", e, h, ok)
+			}
 		}
-		if got := oops.Steps(e); len(got) != 0 {
-			t.Errorf("Steps of %T: %d", e, len(got))
+	}
+}
+
+// TestFirstOnes: 3.1, the first one in the chain is told, whatever is behind
+// it.
+func TestFirstOnes(t *testing.T) {
+	for _, behind := range append(unfollowed(), rings()...) {
+		for _, c := range []struct {
+			name string
+			wrap func(e error) error
+		}{
+			{"outermost", func(e error) error { return e }},
+			{"in a Step", func(e error) error { return oops.Wrap("a", e) }},
+			{"in another wrapper", func(e error) error { return other{e} }},
+			{"joined", func(e error) error { return errors.Join(errors.New("x"), e, behind) }},
+		} {
+			if at, ok := oops.Where(c.wrap(oops.At(4, behind))); at != 4 || !ok {
+				t.Errorf("Where, %s, ahead of %T: %d, %t", c.name, behind, at, ok)
+			}
+			if h, ok := oops.Whose(c.wrap(oops.Of(api.Hash{4}, behind))); h != (api.Hash{4}) || !ok {
+				t.Errorf("Whose, %s, ahead of %T: %x, %t", c.name, behind, h, ok)
+			}
+			if kind := oops.Kind(c.wrap(errors.Join(api.ErrSum, behind))); kind != api.ErrSum {
+				t.Errorf("Kind, %s, ahead of %T: %d", c.name, behind, kind)
+			}
 		}
-		if at, ok := oops.Where(e); at != 0 || ok {
-			t.Errorf("Where of %T: %d", e, at)
+	}
+}
+
+// TestNotAsked: 3.1, as errors.As does, no call asks an error that is behind
+// the one that it tells.
+func TestNotAsked(t *testing.T) {
+	times := 0
+	a := asked{&times, api.ErrArg}
+	oops.Where(oops.At(4, a))
+	oops.Whose(oops.Of(api.Hash{4}, a))
+	oops.Kind(errors.Join(api.ErrSum, a))
+	if times != 0 {
+		t.Errorf("asked %d times", times)
+	}
+	if oops.Kind(a); times != 1 {
+		t.Errorf("Kind asked %d times", times)
+	}
+}
+
+// TestStepsAhead: 3.1, the Steps are told as far as the chain can be followed.
+func TestStepsAhead(t *testing.T) {
+	for _, c := range []struct {
+		e    error
+		want []string
+	}{
+		{oops.Wrap("a", failing{}), []string{"a"}},
+		{oops.Wrap("a", other{oops.Wrap("b", oops.At(1, failing{}))}), []string{"a", "b"}},
+		{oops.Wrap("a", scared{oops.Wrap("b", failing{})}), []string{"a", "b"}},
+		{oops.Wrap("a", hollow{oops.Wrap("b", api.ErrArg)}), []string{"a", "b"}},
+		{oops.Wrap("a", endless{}), []string{"a"}},
+		{oops.Wrap("a", forking{}), []string{"a"}},
+		{oops.Wrap("a", (*oops.Step)(nil)), []string{"a"}},
+		{oops.Wrap("a", torn{nil, failing{}, oops.Wrap("b", nil), oops.Wrap("c", api.ErrArg)}), []string{"a", "c"}},
+	} {
+		if got := oops.Steps(c.e); !slices.Equal(got, c.want) {
+			t.Errorf("%#v: got %q, want %q", c.e, got, c.want)
 		}
-		if h, ok := oops.Whose(e); h != (api.Hash{}) || ok {
-			t.Errorf("Whose of %T: %x", e, h)
+	}
+}
+
+// TestPassedOver: R1 and 3.1, an error that panics when it is asked, or says
+// that it can be taken for what is looked for and gives none, is none: the
+// first one is behind it, or beside it.
+func TestPassedOver(t *testing.T) {
+	for _, c := range []struct {
+		name string
+		wrap func(e error) error
+	}{
+		{"behind one that gives none", func(e error) error { return hollow{e} }},
+		{"beside one that gives none", func(e error) error { return errors.Join(hollow{}, e) }},
+		{"behind one whose As panics", func(e error) error { return scared{e} }},
+		{"beside one whose Unwrap panics", func(e error) error { return errors.Join(other{failing{}}, e) }},
+		{"beside one that refuses", func(e error) error { return errors.Join(refusing{}, e) }},
+		{"beside nil", func(e error) error { return torn{nil, e, nil} }},
+		{"in several", func(e error) error { return torn{hollow{scared{}}, failing{}, scared{hollow{e}}} }},
+	} {
+		if at, ok := oops.Where(c.wrap(oops.At(4, api.ErrArg))); at != 4 || !ok {
+			t.Errorf("Where, %s: %d, %t", c.name, at, ok)
 		}
+		if h, ok := oops.Whose(c.wrap(oops.Of(api.Hash{4}, api.ErrArg))); h != (api.Hash{4}) || !ok {
+			t.Errorf("Whose, %s: %x, %t", c.name, h, ok)
+		}
+		if kind := oops.Kind(c.wrap(api.ErrSum)); kind != api.ErrSum {
+			t.Errorf("Kind, %s: %d", c.name, kind)
+		}
+	}
+}
+
+// TestNoEnd: R1, every call ends for errors that contain themselves. They tell
+// what is found in them all the same.
+func TestNoEnd(t *testing.T) {
+	for i, want := range []struct {
+		kind  api.Errno
+		at    int
+		place bool
+		which bool
+	}{
+		{kind: api.ErrArg},
+		{kind: api.ErrArg, at: 4, place: true},
+		{kind: api.ErrArg, which: true},
+		{kind: api.ErrSum, at: 5, place: true},
+		{kind: api.ErrSum, at: 5, place: true},
+		{kind: api.ErrArg},
+	} {
+		e := rings()[i]
+		if got := oops.Kind(e); got != want.kind {
+			t.Errorf("Kind of ring %d: %d", i, got)
+		}
+		if at, ok := oops.Where(e); at != want.at || ok != want.place {
+			t.Errorf("Where of ring %d: %d, %t", i, at, ok)
+		}
+		if h, ok := oops.Whose(e); h != (api.Hash{}) || ok != want.which {
+			t.Errorf("Whose of ring %d: %x, %t", i, h, ok)
+		}
+		oops.Steps(e)
+	}
+	if got := oops.Steps(rings()[5]); len(got) < 2 || got[0] != "onto a ring" || got[1] != "ring" {
+		t.Errorf("Steps: %d", len(got))
 	}
 }
