@@ -14,10 +14,10 @@ func TestMost(t *testing.T) {
 	}
 	for _, most := range []int{0, 1, 5, 1000} {
 		examined := 0
-		s := &search{left: most, suits: func(error) bool {
+		s := newSearch(most, func(error) bool {
 			examined++
 			return false
-		}}
+		})
 		if errors.As(link{err: e, search: s}, new(*Step)) || examined != most {
 			t.Errorf("examined %d, want %d", examined, most)
 		}

@@ -3,6 +3,7 @@ package oops_test
 import (
 	"errors"
 	"slices"
+	"strconv"
 	"strings"
 	"testing"
 
@@ -56,6 +57,37 @@ func (h hollow) Error() string { return "hollow" }
 func (h hollow) Unwrap() error { return h.err }
 func (h hollow) As(any) bool   { return true }
 
+// fine is an error that says that it can be taken for api.OK.
+type fine struct{ err error }
+
+func (f fine) Error() string { return "fine" }
+func (f fine) Unwrap() error { return f.err }
+func (f fine) As(target any) bool {
+	kind, ok := target.(*api.Errno)
+	if ok {
+		*kind = api.OK
+	}
+	return ok
+}
+
+// pair is an error that wraps two, and lists them anew for each call.
+type pair struct{ first, second error }
+
+func (p *pair) Error() string   { return "pair" }
+func (p *pair) Unwrap() []error { return []error{p.first, p.second} }
+
+// both is a pair that is a value.
+type both struct{ first, second error }
+
+func (b both) Error() string   { return "both" }
+func (b both) Unwrap() []error { return []error{b.first, b.second} }
+
+// noted is a pair that is a value and cannot be compared.
+type noted struct {
+	both
+	notes []string
+}
+
 // torn is an error that wraps several, of which some are nil, and cannot be
 // compared.
 type torn []error
@@ -84,6 +116,20 @@ type forking struct{}
 
 func (forking) Error() string   { return "forking" }
 func (forking) Unwrap() []error { return []error{forking{}, forking{}} }
+
+// rising is an error without an end that wraps a greater one.
+type rising int
+
+func (r rising) Error() string { return "rising" }
+func (r rising) Unwrap() error { return r + 1 }
+
+// spreading is an error without an end that wraps two new ones.
+type spreading struct{ size int }
+
+func (s *spreading) Error() string { return "spreading" }
+func (s *spreading) Unwrap() []error {
+	return []error{&spreading{s.size + 1}, &spreading{s.size + 1}}
+}
 
 // asked is an error that counts how often it is asked for the one it wraps.
 type asked struct {
@@ -199,6 +245,12 @@ func TestKind(t *testing.T) {
 		{"the second of two", errors.Join(oops.Wrap("a", errors.New("x")), oops.Of(api.Hash{}, api.ErrState)), api.ErrState},
 		{"none of two", errors.Join(errors.New("x"), errors.New("y")), api.ErrArg},
 		{"one that is taken for a kind", oops.Wrap("a", posing{}), api.ErrDown},
+		{"one that is taken for OK", fine{}, api.OK},
+		{"one that is taken for OK and wraps another kind", fine{api.ErrForm}, api.OK},
+		{"one that is taken for OK in a Step", oops.Wrap("a", fine{api.ErrForm}), api.OK},
+		{"one that is taken for OK behind a kind", errors.Join(api.ErrForm, fine{}), api.ErrForm},
+		{"one that says so and gives none", hollow{api.ErrForm}, api.OK},
+		{"one that gives a kind but does not say so", errors.Join(refusing{}, api.ErrForm), api.ErrForm},
 		{"1000 layers", nested(1000, api.ErrMaster), api.ErrMaster},
 		{"65536 layers", nested(1<<16, api.ErrMaster), api.ErrMaster},
 	} {
@@ -237,6 +289,8 @@ func TestSteps(t *testing.T) {
 		{"behind other wrappers", oops.At(1, oops.Wrap("d", other{oops.Of(api.Hash{}, b)})), []string{"d", "b", "c"}},
 		{"of nil", &oops.Step{Name: "e"}, []string{"e"}},
 		{"joined", oops.Wrap("d", errors.Join(a, errors.New("x"), b)), []string{"d", "a", "b", "c"}},
+		{"the same Step joined with itself", errors.Join(b, a, oops.At(1, b), other{a}), []string{"b", "c", "a"}},
+		{"Steps of one name joined", errors.Join(a, oops.Wrap("a", api.ErrArg)), []string{"a", "a"}},
 	} {
 		if got := oops.Steps(c.e); !slices.Equal(got, c.want) {
 			t.Errorf("%s: got %q, want %q", c.name, got, c.want)
@@ -346,14 +400,14 @@ func unfollowed() []error {
 	var s *oops.Step
 	var p *oops.Place
 	var w *oops.Which
-	return []error{failing{}, endless{}, forking{}, scared{}, hollow{}, refusing{}, torn{nil, torn{}, failing{}}, other{failing{}}, errors.Join(endless{}, endless{}), s, p, w, (*other)(nil), (*torn)(nil)}
+	return []error{failing{}, endless{}, forking{}, rising(0), &spreading{}, scared{}, refusing{}, torn{nil, torn{}, failing{}}, other{failing{}}, errors.Join(endless{}, endless{}), s, p, w, (*other)(nil), (*torn)(nil)}
 }
 
 // TestNothingFound: R1 and R3, no call panics, and each ends, for errors that
 // cannot be followed; they are none of those that are looked for.
 func TestNothingFound(t *testing.T) {
 	for _, e := range unfollowed() {
-		for _, e := range []error{e, other{e}, errors.Join(e, e)} {
+		for _, e := range []error{e, errors.Join(other{e}, e)} {
 			if got := oops.Kind(e); got != api.ErrArg {
 				t.Errorf("Kind of %T: %d", e, got)
 			}
@@ -433,21 +487,40 @@ func TestStepsAhead(t *testing.T) {
 	}
 }
 
-// TestPassedOver: R1 and 3.1, an error that panics when it is asked, or says
-// that it can be taken for what is looked for and gives none, is none: the
-// first one is behind it, or beside it.
+// TestHollow: R1 and R3, an error that says that it can be taken for a Place or
+// a Which, but gives none, is none, and no Step either.
+func TestHollow(t *testing.T) {
+	for _, e := range []error{hollow{}, oops.Wrap("a", hollow{}), errors.Join(hollow{}, other{hollow{api.ErrSum}})} {
+		if at, ok := oops.Where(e); at != 0 || ok {
+			t.Errorf("Where of %T: %d, %t", e, at, ok)
+		}
+		if h, ok := oops.Whose(e); h != (api.Hash{}) || ok {
+			t.Errorf("Whose of %T: %x, %t", e, h, ok)
+		}
+	}
+	if got := oops.Steps(hollow{}); len(got) != 0 {
+		t.Errorf("Steps: %q", got)
+	}
+}
+
+// TestPassedOver: R1 and 3.1, an error that panics when it is asked, or that is
+// nil or gives nil, is none: the first one is behind it, or beside it.
 func TestPassedOver(t *testing.T) {
 	for _, c := range []struct {
 		name string
+		// kind is what Kind tells if api.ErrSum is wrapped.
+		kind api.Errno
 		wrap func(e error) error
 	}{
-		{"behind one that gives none", func(e error) error { return hollow{e} }},
-		{"beside one that gives none", func(e error) error { return errors.Join(hollow{}, e) }},
-		{"behind one whose As panics", func(e error) error { return scared{e} }},
-		{"beside one whose Unwrap panics", func(e error) error { return errors.Join(other{failing{}}, e) }},
-		{"beside one that refuses", func(e error) error { return errors.Join(refusing{}, e) }},
-		{"beside nil", func(e error) error { return torn{nil, e, nil} }},
-		{"in several", func(e error) error { return torn{hollow{scared{}}, failing{}, scared{hollow{e}}} }},
+		{"behind one that gives none", api.OK, func(e error) error { return hollow{e} }},
+		{"beside one that gives none", api.OK, func(e error) error { return errors.Join(hollow{}, e) }},
+		{"behind one whose As panics", api.ErrSum, func(e error) error { return scared{e} }},
+		{"beside one whose Unwrap panics", api.ErrSum, func(e error) error { return errors.Join(other{failing{}}, e) }},
+		{"beside one that refuses", api.ErrSum, func(e error) error { return errors.Join(refusing{}, e) }},
+		{"beside nil", api.ErrSum, func(e error) error { return torn{nil, e, nil} }},
+		{"beside nil pointers", api.ErrSum, func(e error) error { return torn{(*oops.Step)(nil), (*oops.Place)(nil), (*oops.Which)(nil), e} }},
+		{"in several that panic", api.ErrSum, func(e error) error { return torn{scared{}, failing{}, scared{scared{e}}} }},
+		{"in several", api.OK, func(e error) error { return torn{scared{}, failing{}, scared{hollow{e}}} }},
 	} {
 		if at, ok := oops.Where(c.wrap(oops.At(4, api.ErrArg))); at != 4 || !ok {
 			t.Errorf("Where, %s: %d, %t", c.name, at, ok)
@@ -455,9 +528,157 @@ func TestPassedOver(t *testing.T) {
 		if h, ok := oops.Whose(c.wrap(oops.Of(api.Hash{4}, api.ErrArg))); h != (api.Hash{4}) || !ok {
 			t.Errorf("Whose, %s: %x, %t", c.name, h, ok)
 		}
-		if kind := oops.Kind(c.wrap(api.ErrSum)); kind != api.ErrSum {
+		if kind := oops.Kind(c.wrap(api.ErrSum)); kind != c.kind {
 			t.Errorf("Kind, %s: %d", c.name, kind)
 		}
+	}
+}
+
+// TestAsErrorsAs: 3.1, Kind tells what errors.As finds, and Where and Whose do
+// so too, in chains of any shape that end.
+func TestAsErrorsAs(t *testing.T) {
+	state := uint32(1)
+	roll := func(n int) int {
+		state = state*1664525 + 1013904223
+		return int(state>>16) % n
+	}
+	made := []error{errors.New("x"), torn{}, posing{}, refusing{}}
+	pick := func() error { return made[len(made)-1-roll(min(len(made), 12))] }
+	for i := range 3000 {
+		made = append(made, []error{
+			errors.New("x"), api.Errno(i % 20), &oops.Place{At: i}, &oops.Which{Hash: api.Hash{byte(i), byte(i >> 8)}}, refusing{}, posing{},
+			other{pick()}, fine{pick()}, oops.Wrap("a", pick()), oops.At(i, pick()), oops.Of(api.Hash{byte(i), byte(i >> 8)}, pick()),
+			errors.Join(pick(), pick()), &pair{pick(), pick()}, torn{pick(), nil, pick(), pick()},
+		}[roll(14)])
+		e := made[len(made)-1]
+		kind, ok := errors.AsType[api.Errno](e)
+		if !ok {
+			kind = api.ErrArg
+		}
+		if got := oops.Kind(e); got != kind {
+			t.Errorf("chain %d: Kind: %d, want %d", i, got, kind)
+		}
+		p, ok := errors.AsType[*oops.Place](e)
+		if !ok {
+			p = &oops.Place{}
+		}
+		if got, is := oops.Where(e); got != p.At || is != ok {
+			t.Errorf("chain %d: Where: %d, %t, want %d, %t", i, got, is, p.At, ok)
+		}
+		w, ok := errors.AsType[*oops.Which](e)
+		if !ok {
+			w = &oops.Which{}
+		}
+		if got, is := oops.Whose(e); got != w.Hash || is != ok {
+			t.Errorf("chain %d: Whose: %x, %t, want %x, %t", i, got, is, w.Hash, ok)
+		}
+	}
+}
+
+// checkBehind reports an error unless the calls tell what is behind ahead.
+func checkBehind(t *testing.T, name string, ahead error) {
+	t.Helper()
+	e := errors.Join(ahead, oops.At(3, oops.Of(api.Hash{4}, oops.Wrap("behind", api.ErrParse))))
+	if at, ok := oops.Where(e); at != 3 || !ok {
+		t.Errorf("%s: Where: %d, %t", name, at, ok)
+	}
+	if h, ok := oops.Whose(e); h != (api.Hash{4}) || !ok {
+		t.Errorf("%s: Whose: %x, %t", name, h, ok)
+	}
+	if kind := oops.Kind(e); kind != api.ErrParse {
+		t.Errorf("%s: Kind: %d", name, kind)
+	}
+	if got := oops.Steps(e); len(got) == 0 || got[len(got)-1] != "behind" {
+		t.Errorf("%s: Steps: %d", name, len(got))
+	}
+}
+
+// wrapped returns an error that is wrapped n times.
+func wrapped(n int, wrap func(e error) error) error {
+	e := errors.New("x")
+	for range n {
+		e = wrap(e)
+	}
+	return e
+}
+
+// TestBehindMany: 3.1, the first one is told, however many paths lead to errors
+// ahead of it.
+func TestBehindMany(t *testing.T) {
+	for _, c := range []struct {
+		name string
+		most int
+		wrap func(e error) error
+	}{
+		{"joined", 1<<16 - 10, func(e error) error { return errors.Join(e, e) }},
+		{"joined in wrappers", 64, func(e error) error { return other{errors.Join(other{e}, e)} }},
+		{"joined in Places of nil", 1000, func(e error) error { return errors.Join(e, (*oops.Place)(nil), e) }},
+		{"joined many times", 1000, func(e error) error { return torn{e, e, e, e, e, e, e, e, e} }},
+		{"pairs", 64, func(e error) error { return &pair{e, e} }},
+		{"values", 19, func(e error) error { return both{e, e} }},
+		{"values that cannot be compared", 64, func(e error) error { return torn{e, e} }},
+		{"values that cannot be known again", 19, func(e error) error { return noted{both{e, e}, nil} }},
+	} {
+		for _, n := range []int{1, 26, c.most} {
+			if n <= c.most {
+				checkBehind(t, c.name, wrapped(n, c.wrap))
+			}
+		}
+	}
+}
+
+// TestBehindRows: 3.1, the first one is told if many errors lead to the same
+// long row.
+func TestBehindRows(t *testing.T) {
+	many := func(row error) error {
+		var ahead torn
+		for range 10000 {
+			ahead = append(ahead, other{row})
+		}
+		return ahead
+	}
+	checkBehind(t, "a row of Steps", many(nested(1<<16-10, errors.New("x"))))
+	for _, wrap := range []func(e error) error{
+		func(e error) error { return oops.At(1, e) },
+		func(e error) error { return oops.Of(api.Hash{1}, e) },
+	} {
+		ahead := many(wrapped(1<<16-10, wrap))
+		if kind := oops.Kind(errors.Join(ahead, api.ErrSum)); kind != api.ErrSum {
+			t.Errorf("Kind: %d", kind)
+		}
+	}
+	joined := wrapped(40, func(e error) error { return errors.Join(e, e) })
+	deep := wrapped(1<<15, func(e error) error { return other{e} })
+	checkBehind(t, "a row of values", errors.Join(joined, deep))
+}
+
+// TestBehindLists: 3.1, lists that begin at the same place are not the same.
+func TestBehindLists(t *testing.T) {
+	all := torn{errors.New("x"), errors.New("y"), oops.At(3, api.ErrArg)}
+	ahead := wrapped(40, func(e error) error { return errors.Join(e, e) })
+	if at, ok := oops.Where(torn{ahead, all[:2], all[:3]}); at != 3 || !ok {
+		t.Errorf("got %d, %t", at, ok)
+	}
+}
+
+// TestBehindRings: 3.1 and R1, the first one is told if a chain that leads back
+// to itself, or has no end, is ahead of it.
+func TestBehindRings(t *testing.T) {
+	step, two, wide := &oops.Step{Name: "ring"}, &pair{}, make(torn, 3)
+	step.Err = other{errors.Join(step, step)}
+	two.first, two.second = two, other{two}
+	for i := range wide {
+		wide[i] = other{wide}
+	}
+	long := &oops.Step{Name: "long"}
+	long.Err = nested(5000, long)
+	for i, ring := range []error{step, two, wide, long, endless{}, forking{}, rising(0), torn{step, two, wide, long, rising(0), forking{}}} {
+		checkBehind(t, "ring "+strconv.Itoa(i), ring)
+	}
+	// The rest of a chain can be as deep as any other one.
+	step.Err = errors.Join(step, nested(1<<16-10, oops.At(3, api.ErrArg)))
+	if at, ok := oops.Where(step); at != 3 || !ok {
+		t.Errorf("behind a ring: %d, %t", at, ok)
 	}
 }
 
@@ -489,7 +710,7 @@ func TestNoEnd(t *testing.T) {
 		}
 		oops.Steps(e)
 	}
-	if got := oops.Steps(rings()[5]); len(got) < 2 || got[0] != "onto a ring" || got[1] != "ring" {
+	if got := oops.Steps(rings()[5]); !slices.Equal(got, []string{"onto a ring", "ring"}) {
 		t.Errorf("Steps: %d", len(got))
 	}
 }
